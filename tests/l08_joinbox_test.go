@@ -45,17 +45,20 @@ func keepsByWords(a, b impl.Box, gid int) bool {
 	return a.Mails[i].Uid == b.Mails[j].Uid
 }
 
-// mailsOfBoth are without new numbers yet, in no order that is told.
+// mailsOfBoth are without new numbers yet, in no order that is told: of each Gid the first mail of each side.
 func mailsOfBoth(a, b impl.Box) []impl.Mail {
 	var list []impl.Mail
-	for _, m := range a.Mails {
+	for i, m := range a.Mails {
+		if placeByWords(a, m.Gid) != i {
+			continue
+		}
 		if j := placeByWords(b, m.Gid); j >= 0 {
 			m = joinedByWords(m, b.Mails[j])
 		}
 		list = append(list, m)
 	}
-	for _, m := range b.Mails {
-		if placeByWords(a, m.Gid) < 0 {
+	for j, m := range b.Mails {
+		if placeByWords(a, m.Gid) < 0 && placeByWords(b, m.Gid) == j {
 			list = append(list, m)
 		}
 	}
@@ -199,16 +202,44 @@ func checksMailsOfBoth(t *testing.T, p twoBoxes, joined impl.Box) {
 	}
 }
 
+// firstsAlone is the box without the mails that have a Gid that one ahead of them has.
+func firstsAlone(b impl.Box) impl.Box {
+	out := copyBox(b)
+	out.Mails = nil
+	for i, m := range b.Mails {
+		if placeByWords(b, m.Gid) == i {
+			out.Mails = append(out.Mails, copyMail(m))
+		}
+	}
+	return out
+}
+
+// checksBothWays is for any two boxes of one Gid, right or not: they come to one, and no Gid is there twice.
+func checksBothWays(t *testing.T, p twoBoxes) impl.Box {
+	t.Helper()
+	joined, turned := checksJoin(t, p.a, p.b), checksJoin(t, p.b, p.a)
+	if !likeBoxes(joined, turned) {
+		t.Fatalf("JoinBox(%#v, %#v) = %#v; the other way round %#v", p.a, p.b, joined, turned)
+	}
+	if !likeMailLists(impl.JoinMails(p.a, p.b), impl.JoinMails(p.b, p.a)) || impl.FitsBox(p.a, p.b) != impl.FitsBox(p.b, p.a) {
+		t.Fatalf("JoinMails or FitsBox of %#v and %#v hangs on which is first", p.a, p.b)
+	}
+	if !likeBoxes(joined, firstsAlone(joined)) {
+		t.Fatalf("JoinBox(%#v, %#v) = %#v: a Gid is there twice", p.a, p.b, joined)
+	}
+	if alone := impl.JoinBox(firstsAlone(p.a), firstsAlone(p.b)); !likeBoxes(joined, alone) {
+		t.Fatalf("JoinBox(%#v, %#v) = %#v; of their first mails alone %#v", p.a, p.b, joined, alone)
+	}
+	return joined
+}
+
 // checksRightBoxes is for two right boxes of one Gid: all that promise 8 asks of them.
 func checksRightBoxes(t *testing.T, p twoBoxes) impl.Box {
 	t.Helper()
 	if !boxOkByWords(p.a) || !boxOkByWords(p.b) || p.a.Gid != p.b.Gid {
 		t.Fatalf("%#v and %#v are not two right boxes of one Gid", p.a, p.b)
 	}
-	joined := checksJoin(t, p.a, p.b)
-	if turned := checksJoin(t, p.b, p.a); !likeBoxes(joined, turned) {
-		t.Fatalf("JoinBox(%#v, %#v) = %#v; the other way round %#v", p.a, p.b, joined, turned)
-	}
+	joined := checksBothWays(t, p)
 	checksNumbers(t, p, joined)
 	checksMailsOfBoth(t, p, joined)
 	if again := checksJoin(t, joined, joined); !likeBoxes(again, joined) {
@@ -689,32 +720,93 @@ func TestJoinsOfBoxesThatAreNotRight(t *testing.T) {
 	for i, w := range wrong {
 		for _, other := range []impl.Box{someBox(4, 3), someBox(2, 0), boxOf(40, mailsFrom(20, 3), []int{101, 500}), boxOf(1, nil, nil), w, wrong[(i+1)%len(wrong)], wrong[(i*5+2)%len(wrong)]} {
 			other.Gid = w.Gid
-			checksJoin(t, w, other)
-			checksJoin(t, other, w)
+			checksBothWays(t, twoBoxes{w, other})
 		}
 	}
 }
 
-func TestTwoMailsOfOneGid(t *testing.T) {
-	twice := boxOf(6, []impl.Mail{mailOf(7, 2, flagsOf(1, stampOf(1, 1)), "first"), mailOf(9, 3, flagsOf(0, stampOf(1, 1)), "other"), mailOf(7, 5, flagsOf(2, stampOf(2, 1)), "second")}, nil)
+// told: a mail of this Gid and Uid, with seen set or not, and a text.
+func told(gid, uid, seen int, text string) impl.Mail {
+	return mailOf(gid, uid, flagsOf(seen, stampOf(uid, 1)), text)
+}
+
+// TestGidsThatAreThereTwice: of a Gid that a box has more than once its first mail counts, with all that it has.
+func TestGidsThatAreThereTwice(t *testing.T) {
+	with := func(next int, mails ...impl.Mail) impl.Box { return boxOf(next, mails, nil) }
+	gone := func(next int, gids []int, mails ...impl.Mail) impl.Box { return boxOf(next, mails, gids) }
+	first, second, third := told(7, 2, 1, "first"), told(7, 3, 0, "second"), told(7, 5, 1, "third")
+	other := told(9, 4, 0, "other")
+	twice, thrice := with(6, first, second), with(6, first, second, other, third)
 	for _, c := range []struct {
-		b    impl.Box
-		want [][2]int
+		name string
+		a, b impl.Box
+		want []impl.Mail
+		next int
 	}{
-		{boxOf(1, nil, nil), [][2]int{{7, 2}, {9, 3}, {7, 5}}},
-		{boxOf(9, nil, nil), [][2]int{{7, 9}, {7, 10}, {9, 11}}},
-		{boxOf(9, nil, []int{7}), [][2]int{{9, 9}}},
-		{boxOf(4, []impl.Mail{someMail(7, 2)}, nil), [][2]int{{7, 2}, {7, 5}, {9, 6}}},
-		{boxOf(3, []impl.Mail{someMail(7, 1)}, nil), [][2]int{{9, 3}, {7, 6}, {7, 7}}},
+		{"twice in one, kept", twice, with(1), []impl.Mail{first}, 6},
+		{"twice in one, kept by Next", twice, with(2), []impl.Mail{first}, 6},
+		{"twice in one, its second alone would be kept", twice, with(3), []impl.Mail{withUid(first, 6)}, 7},
+		{"twice in one, not kept", twice, with(9), []impl.Mail{withUid(first, 9)}, 10},
+		{"three times in one, kept", thrice, with(1), []impl.Mail{first, other}, 6},
+		{"three times in one, not kept", thrice, with(9), []impl.Mail{withUid(first, 9), withUid(other, 10)}, 11},
+		{"three times in one, another kept", thrice, with(3), []impl.Mail{other, withUid(first, 6)}, 7},
+		{"twice with one Uid", with(6, first, withUid(second, 2)), with(1), []impl.Mail{first}, 6},
+		{"twice, the first with the greater Uid", with(6, third, first), with(1), []impl.Mail{third}, 6},
+		{"twice in one, once in the other", twice, with(6, first), []impl.Mail{first}, 6},
+		{"the other has the Uid of the second", twice, with(6, second), []impl.Mail{withUid(joinedByWords(first, second), 6)}, 7},
+		{"the other has the Uid of the first", twice, with(6, withUid(third, 2)), []impl.Mail{joinedByWords(first, withUid(third, 2))}, 6},
+		{"three times in one, once in the other", thrice, with(6, first, told(8, 3, 0, "more")), []impl.Mail{first, withUid(told(8, 3, 0, "more"), 6), withUid(other, 7)}, 8},
+		{"twice in both, alike", twice, twice, []impl.Mail{first}, 6},
+		{"twice in both, turned", twice, with(6, second, first), []impl.Mail{withUid(joinedByWords(first, second), 6)}, 7},
+		{"twice in both, like firsts", twice, with(8, first, third), []impl.Mail{first}, 8},
+		{"twice in both, like seconds", twice, with(8, third, second), []impl.Mail{withUid(joinedByWords(first, third), 8)}, 9},
+		{"twice in one, three times in the other", twice, thrice, []impl.Mail{first, withUid(other, 6)}, 7},
+		{"three times in both", thrice, thrice, []impl.Mail{first, other}, 6},
+		{"three times in both, turned", thrice, with(6, third, second, other, first), []impl.Mail{other, withUid(joinedByWords(first, third), 6)}, 7},
+		{"two Gids twice", with(6, first, other, second, withUid(other, 5)), with(1), []impl.Mail{first, other}, 6},
+		{"each twice in one", with(6, first, second), with(6, other, withUid(other, 5)), []impl.Mail{withUid(first, 6), withUid(other, 7)}, 8},
+		{"twice, Gone in the other", twice, gone(1, []int{7}), nil, 6},
+		{"twice, Gone in its own", gone(6, []int{7}, first, second), with(1), nil, 6},
+		{"three times, Gone in the other", thrice, gone(9, []int{7}), []impl.Mail{withUid(other, 9)}, 10},
+		{"twice in both, Gone in one", twice, gone(6, []int{7}, first, third), nil, 6},
+		{"twice, another is Gone", thrice, gone(6, []int{9}, first, second), []impl.Mail{first}, 6},
 	} {
-		got := checksJoin(t, twice, c.b)
-		if !slices.Equal(numbersOf(got.Mails), c.want) {
-			t.Errorf("with %#v: %v", c.b, numbersOf(got.Mails))
+		got := checksBothWays(t, twoBoxes{c.a, c.b})
+		if !likeMailLists(got.Mails, c.want) || got.Next != c.next {
+			t.Errorf("%s: %#v, Next %d; want %#v, Next %d", c.name, got.Mails, got.Next, c.want, c.next)
 		}
-		if fits := impl.FitsBox(twice, c.b); fits != (len(c.want) == 1) {
-			t.Errorf("with %#v it fits: %v", c.b, fits)
+		for _, p := range []twoBoxes{{c.a, c.b}, {c.b, c.a}} {
+			if !likeMailLists(impl.JoinMails(p.a, p.b), c.want) || !impl.FitsBox(p.a, p.b) {
+				t.Errorf("%s: JoinMails has %#v, FitsBox is %v", c.name, impl.JoinMails(p.a, p.b), impl.FitsBox(p.a, p.b))
+			}
 		}
-		checksJoin(t, c.b, twice)
+	}
+}
+
+// TestGidsThatAreThereOften: as many mails of one Gid as there may be, they are one; what is told of them at the limits.
+func TestGidsThatAreThereOften(t *testing.T) {
+	for often := 1; often <= 30; often++ {
+		a, b := someBox(9, 0), someBox(9, 0)
+		for i := range often {
+			a.Mails = append(a.Mails, someMail(600, a.Next+i))
+			b.Mails = slices.Insert(b.Mails, 0, someMail(b.Mails[0].Gid, 1))
+		}
+		a.Next += often
+		got := checksBothWays(t, twoBoxes{a, b})
+		if len(got.Mails) != 10 || got.Next != a.Next || !impl.FitsBox(a, b) || !impl.FitsBox(b, a) {
+			t.Errorf("%d times: %d mails, Next %d", often, len(got.Mails), got.Next)
+		}
+		b.Mails = append(b.Mails, someMail(601, b.Next), someMail(601, b.Next))
+		b.Next++
+		got = checksBothWays(t, twoBoxes{a, b})
+		if len(got.Mails) != 11 || impl.FitsBox(a, b) || impl.FitsBox(b, a) {
+			t.Errorf("%d times and one more: %d mails", often, len(got.Mails))
+		}
+	}
+	// A number that no mail takes is not given: the last one is for the first mail of the Gid alone.
+	twice := boxOf(9999, []impl.Mail{someMail(7, 2), someMail(7, 3)}, nil)
+	if got := checksBothWays(t, twoBoxes{twice, boxOf(9999, nil, nil)}); got.Next != 10000 || !impl.FitsBox(twice, boxOf(9999, nil, nil)) {
+		t.Errorf("at the end: Next %d", got.Next)
 	}
 }
 
@@ -806,8 +898,20 @@ func drawnBox(r *rand.Rand) impl.Box {
 
 func TestDrawnBoxesOfAnyKind(t *testing.T) {
 	r := rand.New(rand.NewSource(888))
+	twice := 0
 	for range 20000 {
-		checksJoin(t, drawnBox(r), drawnBox(r))
+		p := twoBoxes{drawnBox(r), drawnBox(r)}
+		if p.a.Gid != p.b.Gid {
+			checksJoin(t, p.a, p.b)
+			continue
+		}
+		checksBothWays(t, p)
+		if !likeBoxes(p.a, firstsAlone(p.a)) && !likeBoxes(p.b, firstsAlone(p.b)) {
+			twice++
+		}
+	}
+	if twice < 1000 {
+		t.Errorf("%d have a Gid twice on both sides", twice)
 	}
 }
 
