@@ -27,6 +27,9 @@ var (
 	turnedForm  = regexp.MustCompile(`\\(.)`)
 )
 
+// openForm has the beginnings of tokens whose limit is asked only with what stands behind them: an atom of any length, figures, and a sign that turns one that would be the 61st.
+var openForm = regexp.MustCompile(`^(?:[!#-'*-\[\]-z|~]+|\{[0-9]{1,2}|"(?:[ !#-\[\]-~]|\\["\\]){60}\\)$`)
+
 func atomOf(text string) impl.Token {
 	return impl.Token{Kind: impl.ToAtom, Text: text}
 }
@@ -123,12 +126,27 @@ func goesOn(text string) bool {
 	return false
 }
 
+// endsWithin tells whether text ends within such a token, and all ahead of that is right.
+func endsWithin(text string) bool {
+	for at := range len(text) {
+		if at > 0 {
+			if _, size := lineByWords(text[:at-1] + "\r\n"); text[at-1] != ' ' || size != at+1 || at == 1 {
+				continue
+			}
+		}
+		if openForm.MatchString(signsOf(text[at:])) {
+			return true
+		}
+	}
+	return false
+}
+
 func tokensByWords(buf string) ([]impl.Token, string, int) {
 	list, size := lineByWords(buf)
 	if size > 0 && size <= 200 && len(list) >= 1 && len(list) <= 8 {
 		return list, buf[size:], 0
 	}
-	if size == 0 && len(buf) <= 200 && goesOn(buf) {
+	if size == 0 && len(buf) <= 200 && (goesOn(buf) || endsWithin(buf)) {
 		return nil, buf, 1
 	}
 	_, behind, _ := strings.Cut(buf, "\r\n")
@@ -573,8 +591,8 @@ func TestTokensWrongTold(t *testing.T) {
 	for _, c := range [][2]string{
 		{"a  b\r\nnext", "next"}, {" a\r\nnext", "next"}, {"a \r\nnext", "next"}, {"\r\nnext", "next"}, {"\r\n", ""}, {"\"ab\r\nc\"\r\n", "c\"\r\n"}, {"\"a\\b\"\r\nnext", "next"}, {"\"a\"b\r\nnext", "next"},
 		{"{1}\r\nab\r\nnext", "ab\r\nnext"}, {"a {2}\r\nbcd\r\nnext", "bcd\r\nnext"}, {"a\rb\r\nnext", "next"}, {"a\nb\r\nnext", "next"}, {"a\n", ""}, {"\n", ""}, {"a\rb", ""}, {"a\r\r\nnext", "next"}, {"\r\r\nnext", "next"}, {"\rx", ""},
-		{"a\xff\r\nnext", "next"}, {"a\xff", ""}, {"\u00e9", ""}, {"\"\x7f", ""}, {"\"\x1f", ""}, {"\"\\x", ""}, {"a  ", ""}, {" ", ""}, {"{}", ""}, {"{x", ""}, {"{61", ""}, {"{100", ""}, {"{1}x", ""}, {"{1}\rx", ""}, {"{1}\r\nab", "ab"}, {"\"a\"b", ""}, {"\"a\" \"b\"c", ""}, {"(", ""}, {"a(", ""}, {"a\"", ""}, {"}", ""}, {"\\", ""},
-		{"{61}\r\nabc", "abc"}, {"{}\r\nabc", "abc"}, {"a b c d e f g h i\r\nnext", "next"}, {strings.Repeat("a", 41), ""}, {`"` + strings.Repeat("a", 61), ""}, {`"` + strings.Repeat("a", 60) + `\`, ""}, {strings.Repeat("a", 41) + "\r\nnext", "next"}, {"a \r", ""}, {"a  \r", ""},
+		{"a\xff\r\nnext", "next"}, {"a\xff", ""}, {"\u00e9", ""}, {"\"\x7f", ""}, {"\"\x1f", ""}, {"\"\\x", ""}, {"a  ", ""}, {" ", ""}, {"{}", ""}, {"{x", ""}, {"{61}", ""}, {"{61x", ""}, {"{61}\r", ""}, {"{100", ""}, {"{000", ""}, {"{1}x", ""}, {"{1}\rx", ""}, {"{1}\r\nab", "ab"}, {"\"a\"b", ""}, {"\"a\" \"b\"c", ""}, {"(", ""}, {"a(", ""}, {"a\"", ""}, {"}", ""}, {"\\", ""},
+		{"{61}\r\nabc", "abc"}, {"{}\r\nabc", "abc"}, {"a b c d e f g h i\r\nnext", "next"}, {strings.Repeat("a", 41) + " ", ""}, {strings.Repeat("a", 41) + "\r", ""}, {strings.Repeat("a", 41) + "(", ""}, {`"` + strings.Repeat("a", 61), ""}, {`"` + strings.Repeat("a", 60) + `\"`, ""}, {strings.Repeat("a", 41) + "\r\nnext", "next"}, {"a \r", ""}, {"a  \r", ""},
 		{strings.Repeat("a ", 100) + "b", ""}, {strings.Repeat("a ", 100) + "{9}\r\nmore", "more"},
 	} {
 		asWanted(t, c[0], nil, c[1], impl.WireBad)
@@ -585,12 +603,166 @@ func TestTokensWrongTold(t *testing.T) {
 func TestTokensMoreTold(t *testing.T) {
 	for _, buf := range []string{
 		"", "a", "a ", "a\r", "a b", "a b\r", "\"", "\"a", "\"\\", "\"\\\"", "\"\\\\", "\"a b ", "\"a\"", "\"a\" ", "\"a\"\r", "\"\r"[:1], "{", "{0", "{6", "{7", "{60", "{00", "{07", "{60}", "{60}\r", "{60}\r\n", "{3}\r\na\r\n"[:5], "{3}\r\na\r", "{3}\r\na\r\n", "{3}\r\na\r\n ", "{3}\r\na\r\n\r", "{1}\r\n\r", "{2}\r\n\r\n", "{0}\r\n", "{0}\r\n\r",
-		strings.Repeat("a", 40), `"` + strings.Repeat("a", 60), `"` + strings.Repeat("a", 59) + `\`, `"` + strings.Repeat(`\"`, 60), "a b c d e f g h", "a b c d e f g h\r", strings.Repeat("a ", 100), "{60}\r\n" + strings.Repeat("\xff", 59), "{60}\r\n" + strings.Repeat("\xff", 60),
+		"{61", "{99", "a {61", strings.Repeat("a", 40), strings.Repeat("a", 41), "b " + strings.Repeat("a", 41), `"` + strings.Repeat("a", 60), `"` + strings.Repeat("a", 60) + `\`, `"` + strings.Repeat("a", 59) + `\`, `"` + strings.Repeat(`\"`, 60), "a b c d e f g h", "a b c d e f g h\r", strings.Repeat("a ", 100), "{60}\r\n" + strings.Repeat("\xff", 59), "{60}\r\n" + strings.Repeat("\xff", 60),
 		// Tokens are counted when their end is there: what has none says nothing of that yet.
 		"\r", "a b c d e f g h ", "a b c d e f g h i", "a b c d e f g h i\r",
 	} {
 		asWanted(t, buf, nil, buf, impl.WireMore)
 		asByWords(t, buf)
+	}
+}
+
+// tokensAheadOf stand ahead of what comes last: nothing, or each kind of token.
+func tokensAheadOf() []string {
+	return []string{"", "a ", "\"b \\\"\" ", "{3}\r\n\r\nx ", "{0}\r\n ", "a1 SAY ", strings.Repeat("b", 40) + " ", "a b c d e f g ", "a b c d e f g h "}
+}
+
+// asOpen: more to come as long as that is no more than may be said; wrong, with nothing of it, beyond that.
+func asOpen(t *testing.T, buf string) {
+	t.Helper()
+	if len(buf) <= 200 {
+		asWanted(t, buf, nil, buf, impl.WireMore)
+		return
+	}
+	asWrong(t, buf)
+}
+
+// asWrong: nothing, and what is behind the first 13 and 10, be these of a text that is told by its number.
+func asWrong(t *testing.T, buf string) {
+	t.Helper()
+	_, behind, _ := strings.Cut(buf, "\r\n")
+	asWanted(t, buf, nil, behind, impl.WireBad)
+}
+
+// asRight: what is told with the end there, and that its beginnings are more to come.
+func asRight(t *testing.T, ahead string, said string, last impl.Token) {
+	t.Helper()
+	line := ahead + said + "\r\n"
+	list, size := lineByWords(line)
+	if size != len(line) || list[len(list)-1] != last {
+		t.Fatalf("%q does not end with %#v", line, last)
+	}
+	if len(list) > 8 || size > 200 {
+		asWrong(t, line+"next")
+		return
+	}
+	asWanted(t, line+"next", list, "next", 0)
+	for cut := range len(line) {
+		asOpen(t, line[:cut])
+	}
+}
+
+// TestTokensOpenAtoms: how long an atom is counts with the sign behind it, and how long all is at once.
+func TestTokensOpenAtoms(t *testing.T) {
+	for _, ahead := range tokensAheadOf() {
+		for n := 1; n <= 210; n++ {
+			buf := ahead + strings.Repeat("a", n)
+			asOpen(t, buf)
+			if n <= 40 {
+				asRight(t, ahead, strings.Repeat("a", n), atomOf(strings.Repeat("a", n)))
+				continue
+			}
+			for _, behind := range []string{" ", "\r", "\n", "\"", "(", "{", "}", "\\", "\x7f", "\xff", "\u00e9", " b", "\rb", "\r\n", "\r\nnext", " b\r\nnext", "\"\r\nnext"} {
+				asWrong(t, buf+behind)
+			}
+		}
+	}
+	asOpen(t, strings.Repeat("a", 200))
+	asOpen(t, "b "+strings.Repeat("a", 198))
+	asWanted(t, strings.Repeat("a", 201), nil, "", impl.WireBad)
+	asWanted(t, "b "+strings.Repeat("a", 199), nil, "", impl.WireBad)
+	asWanted(t, "b "+strings.Repeat("a", 200), nil, "", impl.WireBad)
+	asWanted(t, strings.Repeat("a", 200)+"\r\nnext", nil, "next", impl.WireBad)
+	asWanted(t, atomSigns(), nil, atomSigns(), impl.WireMore)
+	asWanted(t, atomSigns()+"\r\nnext", nil, "next", impl.WireBad)
+}
+
+// TestTokensOpenCounts: how great a number is counts with the sign behind its figures, and how many figures it has at once.
+func TestTokensOpenCounts(t *testing.T) {
+	for _, ahead := range tokensAheadOf() {
+		for n := range 130 {
+			figures := strconv.Itoa(n)
+			for len(figures) < 4 {
+				checkCount(t, ahead, figures, n)
+				figures = "0" + figures
+			}
+		}
+	}
+}
+
+func checkCount(t *testing.T, ahead string, figures string, n int) {
+	t.Helper()
+	open := ahead + "{" + figures
+	if len(figures) <= 2 {
+		asOpen(t, open)
+	} else {
+		asWrong(t, open)
+	}
+	for _, behind := range []string{"a", " ", "\r", "\n", "\"", "{", "\xff", "\r\nnext", " b\r\nnext"} {
+		asWrong(t, open+behind)
+	}
+	if len(figures) <= 2 && n <= 60 {
+		text := strings.Repeat("\n", n)
+		asRight(t, ahead, "{"+figures+"}\r\n"+text, textOf(text))
+		return
+	}
+	for _, behind := range []string{"}", "}\r", "}\r\n", "}a", "}\r\nnext", "}\r\n" + strings.Repeat("x", n) + "\r\nnext"} {
+		asWrong(t, open+behind)
+	}
+}
+
+// TestTokensOpenQuotes: a sign that turns the next one is no byte of the text; the 61st counts at once, turned or not.
+func TestTokensOpenQuotes(t *testing.T) {
+	for _, ahead := range tokensAheadOf()[:6] {
+		for _, unit := range []string{"x", " ", `\"`, `\\`} {
+			for n := range 63 {
+				said := `"` + strings.Repeat(unit, n)
+				if n > 60 {
+					asWrong(t, ahead+said)
+					asWrong(t, ahead+said+"\\")
+					asWrong(t, ahead+said+"\"\r\nnext")
+					continue
+				}
+				asOpen(t, ahead+said)
+				asOpen(t, ahead+said+"\\")
+				asRight(t, ahead, said+`"`, textOf(strings.Repeat(unit[len(unit)-1:], n)))
+				for _, behind := range []string{"x", " ", "\r", "\r\nnext", "\xff", "x\"\r\nnext"} {
+					asWrong(t, ahead+said+"\\"+behind)
+				}
+			}
+			full := ahead + `"` + strings.Repeat(unit, 60)
+			for _, behind := range []string{"x", " ", "{", "\r", "\xff", `\"`, `\\`, `\""`, `\"` + "\r\nnext", `\""` + "\r\nnext", `\\"` + "\r\nnext", "x\"\r\nnext", `"x`, `"` + "\rx"} {
+				asWrong(t, full+behind)
+			}
+		}
+	}
+}
+
+// TestTokensOpenTold: the inputs at the limits, each first and behind another token, written out.
+func TestTokensOpenTold(t *testing.T) {
+	a40, x60 := strings.Repeat("a", 40), strings.Repeat("x", 60)
+	for _, ahead := range []string{"", "b ", "\"b\" "} {
+		for _, open := range []string{a40, a40 + "a", strings.Repeat("a", 200-len(ahead)), "{60", "{61", "{99", `"` + x60 + `\`} {
+			asByWords(t, ahead+open)
+			asWanted(t, ahead+open, nil, ahead+open, impl.WireMore)
+		}
+		for _, line := range []string{a40 + "a", strings.Repeat("a", 200-len(ahead)), strings.Repeat("a", 200), "{60", "{61", "{99", "{61}", "{99}", `"` + x60 + `\`, `"` + x60 + `\"`, `"` + x60 + `\""`, `"` + x60 + `\\"`, `"` + x60 + `x"`} {
+			asWanted(t, ahead+line+"\r\nnext", nil, "next", impl.WireBad)
+		}
+		for _, wrong := range []string{a40 + "a ", a40 + "a\r", "{61}", "{99}", "{100", `"` + x60 + "x", `"` + x60 + `\"`, `"` + x60 + `\\`, strings.Repeat("a", 201)} {
+			asByWords(t, ahead+wrong)
+			asWanted(t, ahead+wrong, nil, "", impl.WireBad)
+		}
+	}
+	b := atomOf("b")
+	asWanted(t, "b "+a40+"\r\nnext", []impl.Token{b, atomOf(a40)}, "next", 0)
+	asWanted(t, "b {60}\r\n"+x60+"\r\nnext", []impl.Token{b, textOf(x60)}, "next", 0)
+	asWanted(t, `b "`+x60+"\"\r\nnext", []impl.Token{b, textOf(x60)}, "next", 0)
+	// What is wrong ahead of the last token stays so.
+	for _, wrong := range []string{" ", "b  ", "{61} ", a40 + "a ", "\"b\"", "{1}\r\nbc ", "b\r"} {
+		for _, open := range []string{a40 + "a", "{61", `"` + x60 + `\`} {
+			asWrong(t, wrong+open)
+		}
 	}
 }
 
@@ -616,7 +788,7 @@ func TestTokensEveryShort(t *testing.T) {
 
 func TestTokensDrawn(t *testing.T) {
 	r := rand.New(rand.NewSource(1302))
-	signs := []string{"a", "b", "0", "2", " ", " ", "\"", "\\", "{", "}", "\r", "\n", "\r\n", "\r\n", "{2}\r\n", "{11}\r\n", "\"a b\"", "\\\"", "\x7f", "\xc3\xa9", "\x80"}
+	signs := []string{"a", "b", "0", "2", " ", " ", "\"", "\\", "{", "}", "\r", "\n", "\r\n", "\r\n", "{2}\r\n", "{11}\r\n", "\"a b\"", "\\\"", "\x7f", "\xc3\xa9", "\x80", strings.Repeat("c", 40), "{61", "\"" + strings.Repeat("d", 60), strings.Repeat("d", 60)}
 	told := map[int]int{}
 	for range 15000 {
 		var buf string
