@@ -296,9 +296,14 @@ func toldLines(t *testing.T, x impl.Session, s impl.Store, now impl.Session, lin
 // postStore: box 5 has five mails, of the Uids 1 .. 5, with flags 0, 4, 1, 7 and 3; box 6 has one; box 9 has none.
 func postStore(t *testing.T) impl.Store {
 	t.Helper()
-	return behind(t, impl.StoreNew(1), makes(5, "inbox"), makes(9, "empty"), makes(6, "work"),
-		puts(5, 40), puts(5, 20), puts(5, 70), puts(6, 60), puts(5, 10), puts(5, 30),
-		marks(5, 20, 4), marks(5, 70, 1), marks(5, 10, 7), marks(5, 30, 3))
+	return behind(t, impl.StoreNew(1), postCalls()...)
+}
+
+func postCalls() []storeCall {
+	return []storeCall{
+		makes(5, "inbox"), makes(9, "empty"), makes(6, "work"), puts(5, 40), puts(5, 20), puts(5, 70), puts(6, 60), puts(5, 10), puts(5, 30),
+		marks(5, 20, 4), marks(5, 70, 1), marks(5, 10, 7), marks(5, 30, 3),
+	}
 }
 
 // without is the store once these of box 5 are taken out.
